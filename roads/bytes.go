@@ -1,87 +1,56 @@
 package roads
 
 import (
-	"strings"
-
 	"kerbstone/api"
+	"kerbstone/numbers"
 )
 
-// mark is how the bytes of a map begin, and size how many bytes a number has.
-const (
-	mark = "kbm1"
-	size = 8
-)
+// mark is how the bytes of a map begin.
+const mark = "kbm1"
 
 // Bytes returns the bytes of a map.
 func Bytes(m api.Map) (string, api.Errno) {
 	if e := Check(m); e != api.OK {
 		return "", e
 	}
-	w := writer{}
-	w.text.WriteString(mark)
-	w.put(m.Version)
-	write(&w, m.Lanes, writeLane)
-	write(&w, m.Zones, writeZone)
-	write(&w, m.Signals, writeSignal)
-	write(&w, m.Works, writeWork)
-	return w.text.String(), api.OK
+	w := numbers.NewWriter(mark)
+	w.Put(m.Version)
+	numbers.Write(w, m.Lanes, writeLane)
+	numbers.Write(w, m.Zones, writeZone)
+	numbers.Write(w, m.Signals, writeSignal)
+	numbers.Write(w, m.Works, writeWork)
+	return w.Text(), api.OK
 }
 
-// writer writes numbers one after the other.
-type writer struct {
-	text strings.Builder
+func writeLane(w *numbers.Writer, l api.Lane) {
+	w.Put(int64(l.Kind), l.Half, l.Limit)
+	numbers.Write(w, l.Curve.Pts, writeSpot)
+	numbers.Write(w, l.Next, (*numbers.Writer).PutInt)
 }
 
-// put writes numbers, the highest byte of each first.
-func (w *writer) put(numbers ...int64) {
-	for _, n := range numbers {
-		for shift := 8 * (size - 1); shift >= 0; shift -= 8 {
-			w.text.WriteByte(byte(n >> shift))
-		}
-	}
+func writeSpot(w *numbers.Writer, p api.Spot) {
+	w.Put(p.X, p.Y)
 }
 
-// write writes how many rows there are, and each of them.
-func write[R any](w *writer, rows []R, one func(*writer, R)) {
-	w.put(int64(len(rows)))
-	for _, row := range rows {
-		one(w, row)
-	}
+func writeZone(w *numbers.Writer, z api.Zone) {
+	w.PutInt(z.Signal)
+	numbers.Write(w, z.Parts, writePart)
 }
 
-func writeNumber(w *writer, n int) {
-	w.put(int64(n))
+func writePart(w *numbers.Writer, p api.Part) {
+	w.Put(int64(p.Lane), p.From, p.To, int64(p.Rank))
 }
 
-func writeLane(w *writer, l api.Lane) {
-	w.put(int64(l.Kind), l.Half, l.Limit)
-	write(w, l.Curve.Pts, writeSpot)
-	write(w, l.Next, writeNumber)
+func writeSignal(w *numbers.Writer, s api.Signal) {
+	w.Put(s.Offset)
+	numbers.Write(w, s.Phases, writePhase)
 }
 
-func writeSpot(w *writer, p api.Spot) {
-	w.put(p.X, p.Y)
+func writePhase(w *numbers.Writer, p api.Phase) {
+	w.Put(p.Ticks)
+	numbers.Write(w, p.Green, (*numbers.Writer).PutInt)
 }
 
-func writeZone(w *writer, z api.Zone) {
-	w.put(int64(z.Signal))
-	write(w, z.Parts, writePart)
-}
-
-func writePart(w *writer, p api.Part) {
-	w.put(int64(p.Lane), p.From, p.To, int64(p.Rank))
-}
-
-func writeSignal(w *writer, s api.Signal) {
-	w.put(s.Offset)
-	write(w, s.Phases, writePhase)
-}
-
-func writePhase(w *writer, p api.Phase) {
-	w.put(p.Ticks)
-	write(w, p.Green, writeNumber)
-}
-
-func writeWork(w *writer, k api.Work) {
-	w.put(int64(k.Lane), k.From, k.To, k.Begin, k.End, k.Limit)
+func writeWork(w *numbers.Writer, k api.Work) {
+	w.Put(int64(k.Lane), k.From, k.To, k.Begin, k.End, k.Limit)
 }

@@ -1,24 +1,22 @@
 package roads
 
 import (
-	"strings"
-
 	"kerbstone/api"
+	"kerbstone/numbers"
 )
 
 // Read returns the valid map that has these bytes.
 func Read(s string) (api.Map, api.Errno) {
-	text, ok := strings.CutPrefix(s, mark)
+	r, ok := numbers.NewReader(s, mark)
 	if !ok {
 		return api.Map{}, api.ErrForm
 	}
-	r := &reader{text: text}
 	m := api.Map{
-		Version: r.next(),
-		Lanes:   read(r, api.MaxLanes, readLane),
-		Zones:   read(r, api.MaxZones, readZone),
-		Signals: read(r, api.MaxSignals, readSignal),
-		Works:   read(r, api.MaxWorks, readWork),
+		Version: r.Next(),
+		Lanes:   numbers.Read(r, api.MaxLanes, readLane),
+		Zones:   numbers.Read(r, api.MaxZones, readZone),
+		Signals: numbers.Read(r, api.MaxSignals, readSignal),
+		Works:   numbers.Read(r, api.MaxWorks, readWork),
 	}
 	// The reader only guesses a map: it has been right if s is what Bytes
 	// makes of it.
@@ -28,76 +26,39 @@ func Read(s string) (api.Map, api.Errno) {
 	return m, api.OK
 }
 
-// reader reads numbers one after the other.
-type reader struct {
-	text string
-}
-
-// next reads a number, 0 if there is none left.
-func (r *reader) next() int64 {
-	if len(r.text) < size {
-		return 0
-	}
-	var n int64
-	for i := range size {
-		n = n<<8 | int64(r.text[i])
-	}
-	r.text = r.text[size:]
-	return n
-}
-
-// number reads a number that is an int.
-func (r *reader) number() int {
-	return int(r.next())
-}
-
-// read reads how many rows there are, and each of them: none, if there are
-// more than most.
-func read[R any](r *reader, most int64, one func(*reader) R) []R {
-	count := r.next()
-	if count > most {
-		return nil
-	}
-	var rows []R
-	for range count {
-		rows = append(rows, one(r))
-	}
-	return rows
-}
-
 // Go evaluates calls from left to right, so that the fields are read in the
 // order in which they are written here.
 
-func readLane(r *reader) api.Lane {
+func readLane(r *numbers.Reader) api.Lane {
 	return api.Lane{
-		Kind:  r.number(),
-		Half:  r.next(),
-		Limit: r.next(),
-		Curve: api.Curve{Pts: read(r, api.MaxPts, readSpot)},
-		Next:  read(r, api.MaxNext, (*reader).number),
+		Kind:  r.NextInt(),
+		Half:  r.Next(),
+		Limit: r.Next(),
+		Curve: api.Curve{Pts: numbers.Read(r, api.MaxPts, readSpot)},
+		Next:  numbers.Read(r, api.MaxNext, (*numbers.Reader).NextInt),
 	}
 }
 
-func readSpot(r *reader) api.Spot {
-	return api.Spot{X: r.next(), Y: r.next()}
+func readSpot(r *numbers.Reader) api.Spot {
+	return api.Spot{X: r.Next(), Y: r.Next()}
 }
 
-func readZone(r *reader) api.Zone {
-	return api.Zone{Signal: r.number(), Parts: read(r, api.MaxParts, readPart)}
+func readZone(r *numbers.Reader) api.Zone {
+	return api.Zone{Signal: r.NextInt(), Parts: numbers.Read(r, api.MaxParts, readPart)}
 }
 
-func readPart(r *reader) api.Part {
-	return api.Part{Lane: r.number(), From: r.next(), To: r.next(), Rank: r.number()}
+func readPart(r *numbers.Reader) api.Part {
+	return api.Part{Lane: r.NextInt(), From: r.Next(), To: r.Next(), Rank: r.NextInt()}
 }
 
-func readSignal(r *reader) api.Signal {
-	return api.Signal{Offset: r.next(), Phases: read(r, api.MaxPhases, readPhase)}
+func readSignal(r *numbers.Reader) api.Signal {
+	return api.Signal{Offset: r.Next(), Phases: numbers.Read(r, api.MaxPhases, readPhase)}
 }
 
-func readPhase(r *reader) api.Phase {
-	return api.Phase{Ticks: r.next(), Green: read(r, api.MaxLanes, (*reader).number)}
+func readPhase(r *numbers.Reader) api.Phase {
+	return api.Phase{Ticks: r.Next(), Green: numbers.Read(r, api.MaxLanes, (*numbers.Reader).NextInt)}
 }
 
-func readWork(r *reader) api.Work {
-	return api.Work{Lane: r.number(), From: r.next(), To: r.next(), Begin: r.next(), End: r.next(), Limit: r.next()}
+func readWork(r *numbers.Reader) api.Work {
+	return api.Work{Lane: r.NextInt(), From: r.Next(), To: r.Next(), Begin: r.Next(), End: r.Next(), Limit: r.Next()}
 }
