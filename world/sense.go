@@ -83,10 +83,13 @@ func Speed(s api.State, noise int64) api.Mark {
 	if !measurable(s) {
 		return api.Mark{}
 	}
-	return mark(s.Tick, s.Agents[0].V, noise, speedError)
+	measured := mark(s.Tick, s.Agents[0].V, noise, speedError)
+	measured.Lo = max(0, measured.Lo)
+	return measured
 }
 
-// Fix returns the measured place of the vehicle.
+// Fix returns the measured place of the vehicle. Unlike a speed, a place may be
+// measured below 0: the mark is as wide near the start of the route as elsewhere.
 func Fix(s api.State, noise int64) api.Mark {
 	if !measurable(s) {
 		return api.Mark{}
@@ -104,5 +107,5 @@ func measurable(s api.State) bool {
 // mark returns the mark of something that is measured with this greatest error.
 func mark(tick, truth, noise, most int64) api.Mark {
 	x := truth + wrongBy(noise, most)
-	return api.Mark{Stamp: tick, Lo: max(0, x-most), Hi: x + most}
+	return api.Mark{Stamp: tick, Lo: x - most, Hi: x + most}
 }

@@ -175,9 +175,11 @@ func TestMarks(t *testing.T) {
 		{world.Speed(ahead(), far), mark(994+far%7, 1000+far%7)}, {world.Speed(ahead(), low), mark(994+low%7+7, 1000+low%7+7)},
 		{world.Fix(ahead(), 200), mark(9800, 10200)}, {world.Fix(ahead(), 0), mark(9600, 10000)}, {world.Fix(ahead(), 400), mark(10000, 10400)}, {world.Fix(ahead(), 401), mark(9600, 10000)}, {world.Fix(ahead(), -1), mark(10000, 10400)}, {world.Fix(ahead(), -401), mark(9600, 10000)},
 		{world.Fix(ahead(), far), mark(9600+far%401, 10000+far%401)}, {world.Fix(ahead(), low), mark(9600+low%401+401, 10000+low%401+401)},
-		// Nothing is measured below 0.
+		// No speed is measured below 0.
 		{world.Speed(state(3, api.Agent{V: 5}), 0), mark(0, 5)}, {world.Speed(state(3, api.Agent{V: 6}), 0), mark(0, 6)}, {world.Speed(state(3, api.Agent{V: 7}), 0), mark(1, 7)}, {world.Speed(state(3, api.Agent{}), 0), mark(0, 0)}, {world.Speed(state(3, api.Agent{}), 6), mark(0, 6)},
-		{world.Fix(state(3, api.Agent{S: 399}), 0), mark(0, 399)}, {world.Fix(state(3, api.Agent{S: 401}), 0), mark(1, 401)}, {world.Fix(state(3, api.Agent{}), 0), mark(0, 0)}, {world.Fix(state(3, api.Agent{}), 400), mark(0, 400)},
+		// A place is, near the start of the route: Lo is always Hi - 400.
+		{world.Fix(state(3, api.Agent{}), 0), mark(-400, 0)}, {world.Fix(state(3, api.Agent{}), 200), mark(-200, 200)}, {world.Fix(state(3, api.Agent{}), 399), mark(-1, 399)}, {world.Fix(state(3, api.Agent{}), 400), mark(0, 400)}, {world.Fix(state(3, api.Agent{}), -1), mark(0, 400)}, {world.Fix(state(3, api.Agent{}), -401), mark(-400, 0)}, {world.Fix(state(3, api.Agent{S: 199}), 200), mark(-1, 399)}, {world.Fix(state(3, api.Agent{S: 200}), 200), mark(0, 400)}, {world.Fix(state(3, api.Agent{S: 201}), 200), mark(1, 401)}, {world.Fix(state(3, api.Agent{S: 399}), 0), mark(-1, 399)}, {world.Fix(state(3, api.Agent{S: 400}), 0), mark(0, 400)}, {world.Fix(state(3, api.Agent{S: 401}), 0), mark(1, 401)},
+		{world.Fix(state(3, api.Agent{}), low), mark(low%401+1, low%401+401)}, {world.Fix(state(3, api.Agent{}), far), mark(far%401-400, far%401)},
 		// The state need not be valid otherwise.
 		{world.Speed(state(3, api.Agent{V: api.MaxTick, S: api.MaxTick, Len: low, Begin: far, Gone: true}), 3), mark(api.MaxTick-3, api.MaxTick+3)},
 		{world.Fix(state(3, api.Agent{V: api.MaxTick, S: api.MaxTick, Route: []int{7}}), 200), mark(api.MaxTick-200, api.MaxTick+200)},
@@ -202,10 +204,10 @@ func TestMarksContain(t *testing.T) {
 		a := api.Agent{S: d.pick(0, d.roll(0, 900), d.roll(0, api.MaxTick)), V: d.pick(0, d.roll(0, 20), d.roll(0, 2000))}
 		n := d.noise(1)[0]
 		v, s := world.Speed(state(1, a), n), world.Fix(state(1, a), n)
-		if v.Lo > a.V || v.Hi < a.V || v.Lo < 0 || v.Hi-v.Lo > 6 || v.Hi != a.V+modulo(n, 7) {
+		if v.Lo > a.V || v.Hi < a.V || v.Lo != max(0, v.Hi-6) || v.Hi != a.V+modulo(n, 7) {
 			t.Error(a, n, v)
 		}
-		if s.Lo > a.S || s.Hi < a.S || s.Lo < 0 || s.Hi-s.Lo > 400 || s.Hi != a.S+modulo(n, 401) {
+		if s.Lo > a.S || s.Hi < a.S || s.Hi-s.Lo != 400 || s.Hi != a.S+modulo(n, 401) {
 			t.Error(a, n, s)
 		}
 	}
